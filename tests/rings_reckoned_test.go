@@ -88,11 +88,15 @@ func areaOf(row []impl.Point) *big.Int {
 
 func rowsCanBe(rs []impl.Ring) bool {
 	for _, r := range rs {
-		if len(r.Row) > 2000 || slices.ContainsFunc(r.Row, func(p impl.Point) bool { return !canBe(p) }) {
+		if !rowCanBe(r.Row) {
 			return false
 		}
 	}
 	return len(rs) <= 40
+}
+
+func rowCanBe(row []impl.Point) bool {
+	return len(row) <= 2000 && !slices.ContainsFunc(row, func(p impl.Point) bool { return !canBe(p) })
 }
 
 func canBe(p impl.Point) bool {
