@@ -196,7 +196,7 @@ func nearestOn(a Point, b Point, p Point) Point {
 	return Point{X: a.X + share(u.X, along, whole), Y: a.Y + share(u.Y, along, whole)}
 }
 
-// share is n times part / whole, rounded down, for 0 < part < whole.
+// share is n times part / whole, rounded down, for 0 <= part <= whole and 0 < whole.
 func share(n int64, part int64, whole int64) int64 {
 	size, rest := product(uint64(abs(n)), uint64(part)).over(uint64(whole))
 	if n >= 0 {
