@@ -1,6 +1,7 @@
 package tests
 
 import (
+	"math/rand"
 	"slices"
 	"strings"
 	"testing"
@@ -206,6 +207,23 @@ func longer(number string) []string {
 	return []string{start + "\x00", start + "\x80\x00", start + strings.Repeat("\x80", 7) + "\x00", start + strings.Repeat("\x80", 60) + "\x00"}
 }
 
+// wrongNumbers are bytes that must not stand in the place of those of a number.
+func wrongNumbers(number string) []string {
+	wrong := append(longer(number),
+		"\x81\x94\xeb\xdc\x83\x01", strings.Repeat("\xff", 8)+"\x7f", strings.Repeat("\xff", 9)+"\x01", strings.Repeat("\xff", 9)+"\x7f",
+		strings.Repeat("\xff", 10)+"\x01", strings.Repeat("\xff", 40)+"\x01", strings.Repeat("\x80", 9)+"\x01", strings.Repeat("\x80", 9)+"\x02",
+		strings.Repeat("\x80", 10)+"\x01", strings.Repeat("\xff", 200), strings.Repeat("\x80", 200))
+	// One that is right in its lowest bits is still another number.
+	last := len(number) - 1
+	low := number[:last] + string([]byte{number[last] | 128})
+	for noughts := 4; noughts < 12; noughts++ {
+		for _, high := range []string{"\x01", "\x02", "\x40", "\x7f"} {
+			wrong = append(wrong, low+strings.Repeat("\x80", noughts)+high)
+		}
+	}
+	return wrong
+}
+
 func TestReadLongNumbers(t *testing.T) {
 	// Each form with a # for one number, and bytes that may stand there.
 	for form, number := range map[string]string{
@@ -219,23 +237,8 @@ func TestReadLongNumbers(t *testing.T) {
 		if _, ok := impl.ReadChanges([]byte(strings.Replace(form, "#", number, 1))); !ok {
 			t.Errorf("%q was not read", form)
 		}
-		for _, long := range longer(number) {
-			checkNotRead(t, "longer", []byte(strings.Replace(form, "#", long, 1)))
-		}
-		for _, great := range []string{
-			"\x81\x94\xeb\xdc\x83\x01", strings.Repeat("\xff", 8) + "\x7f", strings.Repeat("\xff", 9) + "\x01", strings.Repeat("\xff", 9) + "\x7f",
-			strings.Repeat("\xff", 10) + "\x01", strings.Repeat("\xff", 40) + "\x01", strings.Repeat("\x80", 9) + "\x01", strings.Repeat("\x80", 9) + "\x02",
-			strings.Repeat("\x80", 10) + "\x01", strings.Repeat("\xff", 200), strings.Repeat("\x80", 200),
-		} {
-			checkNotRead(t, "too great", []byte(strings.Replace(form, "#", great, 1)))
-		}
-		// One that is right in its lowest bits is still another number.
-		last := len(number) - 1
-		low := number[:last] + string([]byte{number[last] | 128})
-		for noughts := 4; noughts < 12; noughts++ {
-			for _, high := range []string{"\x01", "\x02", "\x40", "\x7f"} {
-				checkNotRead(t, "another", []byte(strings.Replace(form, "#", low+strings.Repeat("\x80", noughts)+high, 1)))
-			}
+		for _, wrong := range wrongNumbers(number) {
+			checkNotRead(t, "a number", []byte(strings.Replace(form, "#", wrong, 1)))
 		}
 	}
 }
@@ -252,25 +255,30 @@ func TestReadCountsThatAreTooGreat(t *testing.T) {
 	}
 }
 
+// shakenBytes are others at up to two places, more, or fewer.
+func shakenBytes(r *rand.Rand, b []byte) []byte {
+	for range r.Intn(3) {
+		at := r.Intn(len(b))
+		switch r.Intn(3) {
+		case 0:
+			b[at] = byte(r.Intn(256))
+		case 1:
+			b = slices.Insert(b, at, byte(r.Intn(9)))
+		default:
+			b = slices.Delete(b, at, at+1)
+		}
+		if len(b) == 0 {
+			break
+		}
+	}
+	return b
+}
+
 func TestReadByChance(t *testing.T) {
 	tell := numbers(33)
 	read := 0
 	for range 60000 {
-		b := changeBytesOf(someChanges(tell, 3)...)
-		for range tell.Intn(3) {
-			at := tell.Intn(len(b))
-			switch tell.Intn(3) {
-			case 0:
-				b[at] = byte(tell.Intn(256))
-			case 1:
-				b = slices.Insert(b, at, byte(tell.Intn(9)))
-			default:
-				b = slices.Delete(b, at, at+1)
-			}
-			if len(b) == 0 {
-				break
-			}
-		}
+		b := shakenBytes(tell, changeBytesOf(someChanges(tell, 3)...))
 		want, wanted := readOf(b)
 		got, ok := impl.ReadChanges(b)
 		if ok != wanted || !sameChanges(got, want) {

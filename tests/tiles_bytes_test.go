@@ -215,22 +215,8 @@ func TestReadTileWithLongNumbers(t *testing.T) {
 		if _, ok := impl.ReadTile([]byte(strings.Replace(form, "#", number, 1))); !ok {
 			t.Errorf("%q was not read", form)
 		}
-		for _, long := range longer(number) {
-			checkNoTileRead(t, "longer", []byte(strings.Replace(form, "#", long, 1)))
-		}
-		for _, great := range []string{
-			"\x81\x94\xeb\xdc\x83\x01", strings.Repeat("\xff", 8) + "\x7f", strings.Repeat("\xff", 9) + "\x01", strings.Repeat("\xff", 9) + "\x7f",
-			strings.Repeat("\xff", 10) + "\x01", strings.Repeat("\xff", 40) + "\x01", strings.Repeat("\x80", 9) + "\x01", strings.Repeat("\xff", 200), strings.Repeat("\x80", 200),
-		} {
-			checkNoTileRead(t, "too great", []byte(strings.Replace(form, "#", great, 1)))
-		}
-		// One that is right in its lowest bits is still another number.
-		last := len(number) - 1
-		low := number[:last] + string([]byte{number[last] | 128})
-		for noughts := 4; noughts < 12; noughts++ {
-			for _, high := range []string{"\x01", "\x02", "\x40", "\x7f"} {
-				checkNoTileRead(t, "another", []byte(strings.Replace(form, "#", low+strings.Repeat("\x80", noughts)+high, 1)))
-			}
+		for _, wrong := range wrongNumbers(number) {
+			checkNoTileRead(t, "a number", []byte(strings.Replace(form, "#", wrong, 1)))
 		}
 	}
 }
@@ -267,21 +253,7 @@ func TestTilesReadByChance(t *testing.T) {
 	tell := numbers(72)
 	read := 0
 	for range 60000 {
-		b := tileBytesOf(someTileData(tell))
-		for range tell.Intn(3) {
-			at := tell.Intn(len(b))
-			switch tell.Intn(3) {
-			case 0:
-				b[at] = byte(tell.Intn(256))
-			case 1:
-				b = slices.Insert(b, at, byte(tell.Intn(9)))
-			default:
-				b = slices.Delete(b, at, at+1)
-			}
-			if len(b) == 0 {
-				break
-			}
-		}
+		b := shakenBytes(tell, tileBytesOf(someTileData(tell)))
 		want, wanted := readTileOf(b)
 		got, ok := impl.ReadTile(b)
 		if ok != wanted || !sameTileData(got, want) {

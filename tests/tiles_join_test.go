@@ -1,6 +1,7 @@
 package tests
 
 import (
+	"math/rand"
 	"slices"
 	"testing"
 
@@ -15,6 +16,17 @@ func joinAt(from impl.Point, to impl.Point, axis int, e int64) impl.Point {
 	c := crossingOf(spotOf(from), spotOf(to), axis, e)
 	return at(c[0], c[1])
 }
+
+// middleTile lies so near the origin, and is so small, that all points around it can be.
+func middleTile(r *rand.Rand) impl.Tile {
+	zoom := 4 + r.Int63n(7)
+	n := int64(1) << (zoom - 1)
+	return tile(zoom, n-1+r.Int63n(3), n-1+r.Int63n(3))
+}
+
+func eastOf(one impl.Tile) impl.Tile { return tile(one.Zoom, one.X+1, one.Y) }
+
+func northOf(one impl.Tile) impl.Tile { return tile(one.Zoom, one.X, one.Y+1) }
 
 // overEdge picks a stretch from below an edge to above it, not far from a tile of that side.
 func overEdge(pick func() impl.Point, axis int, e int64) (impl.Point, impl.Point) {
@@ -46,15 +58,13 @@ func TestStretchesJoinAtUprightEdges(t *testing.T) {
 	tell := numbers(74)
 	joined := 0
 	for range 20000 {
-		zoom := 4 + tell.Int63n(7)
-		n, side := int64(1)<<(zoom-1), int64(33554432)>>zoom
-		west := tile(zoom, n-1+tell.Int63n(3), n-1+tell.Int63n(3))
-		b := impl.TileBox(west)
+		west := middleTile(tell)
+		b, side := impl.TileBox(west), int64(33554432)>>west.Zoom
 		pick := func() impl.Point {
 			return at(b.High.X+within(tell, 2*side), b.Low.Y+side/2+within(tell, side))
 		}
 		p, q := overEdge(pick, 0, b.High.X)
-		left, right := onePiece(t, p, q, west), onePiece(t, p, q, tile(zoom, west.X+1, west.Y))
+		left, right := onePiece(t, p, q, west), onePiece(t, p, q, eastOf(west))
 		c := joinAt(p, q, 0, b.High.X)
 		if left != nil && right != nil {
 			joined++
@@ -63,7 +73,7 @@ func TestStretchesJoinAtUprightEdges(t *testing.T) {
 			}
 		}
 		// Turned round, both end where they began.
-		back, ahead := onePiece(t, q, p, west), onePiece(t, q, p, tile(zoom, west.X+1, west.Y))
+		back, ahead := onePiece(t, q, p, west), onePiece(t, q, p, eastOf(west))
 		if !slices.Equal(turned(back), left) || !slices.Equal(turned(ahead), right) {
 			t.Fatal(p, q, west, left, back, right, ahead)
 		}
@@ -77,15 +87,13 @@ func TestStretchesJoinAtLevelEdges(t *testing.T) {
 	tell := numbers(75)
 	joined := 0
 	for range 20000 {
-		zoom := 4 + tell.Int63n(7)
-		n, side := int64(1)<<(zoom-1), int64(33554432)>>zoom
-		south := tile(zoom, n-1+tell.Int63n(3), n-1+tell.Int63n(3))
-		b := impl.TileBox(south)
+		south := middleTile(tell)
+		b, side := impl.TileBox(south), int64(33554432)>>south.Zoom
 		pick := func() impl.Point {
 			return at(b.Low.X+side/2+within(tell, side), b.High.Y+within(tell, 2*side))
 		}
 		p, q := overEdge(pick, 1, b.High.Y)
-		low, high := onePiece(t, p, q, south), onePiece(t, p, q, tile(zoom, south.X, south.Y+1))
+		low, high := onePiece(t, p, q, south), onePiece(t, p, q, northOf(south))
 		if low == nil || high == nil {
 			continue
 		}
@@ -107,16 +115,14 @@ func TestStretchesJoinAtLevelEdges(t *testing.T) {
 func TestStretchesAlongEdgesAreInBothTiles(t *testing.T) {
 	tell := numbers(76)
 	for range 2000 {
-		zoom := 4 + tell.Int63n(7)
-		n := int64(1) << (zoom - 1)
-		one := tile(zoom, n-1+tell.Int63n(3), n-1+tell.Int63n(3))
+		one := middleTile(tell)
 		b := impl.TileBox(one)
 		up := []impl.Point{at(b.High.X, b.Low.Y+tell.Int63n(9)-4), at(b.High.X, b.High.Y+tell.Int63n(9)-4)}
-		if left, right := onePiece(t, up[0], up[1], one), onePiece(t, up[0], up[1], tile(zoom, one.X+1, one.Y)); left == nil || !slices.Equal(left, right) {
+		if left, right := onePiece(t, up[0], up[1], one), onePiece(t, up[0], up[1], eastOf(one)); left == nil || !slices.Equal(left, right) {
 			t.Fatal(up, left, right)
 		}
 		level := []impl.Point{at(b.Low.X+tell.Int63n(9)-4, b.High.Y), at(b.High.X+tell.Int63n(9)-4, b.High.Y)}
-		if low, high := onePiece(t, level[0], level[1], one), onePiece(t, level[0], level[1], tile(zoom, one.X, one.Y+1)); low == nil || !slices.Equal(low, high) {
+		if low, high := onePiece(t, level[0], level[1], one), onePiece(t, level[0], level[1], northOf(one)); low == nil || !slices.Equal(low, high) {
 			t.Fatal(level, low, high)
 		}
 	}
