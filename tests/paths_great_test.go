@@ -1,6 +1,7 @@
 package tests
 
 import (
+	"math/rand"
 	"slices"
 	"testing"
 
@@ -142,8 +143,8 @@ func firstOf(count int, even int64, odd int64) []int64 {
 	return list
 }
 
-func TestPathsOfAGreatTown(t *testing.T) {
-	tell := numbers(123)
+// greatTown has as many places and Roads as may be, and turns that are forbidden.
+func greatTown(tell *rand.Rand) impl.Graph {
 	var g impl.Graph
 	for i := range int64(impl.MaxNodes) {
 		g.Places = append(g.Places, spotAt(i+1, i%70*100+within(tell, 40), i/70*100+within(tell, 40)))
@@ -159,7 +160,12 @@ func TestPathsOfAGreatTown(t *testing.T) {
 		g.Roads = append(g.Roads, timed(a, b, 1+tell.Int63n(12)))
 	}
 	turns := turnsIn(g, func(from int64, to int64) bool { return tell.Intn(8) == 0 })
-	g = withBans(g, turns[:min(len(turns), impl.MaxBans)]...)
+	return withBans(g, turns[:min(len(turns), impl.MaxBans)]...)
+}
+
+func TestPathsOfAGreatTown(t *testing.T) {
+	tell := numbers(123)
+	g := greatTown(tell)
 	reached := 0
 	for range 4 {
 		s := tell.Int63n(impl.MaxNodes)
