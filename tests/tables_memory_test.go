@@ -151,7 +151,8 @@ func TestTablesOfEveryKindAreAnswered(t *testing.T) {
 		percent := number() * pick(tell, int64(1), 60)
 		checkGraph(t, "strange", impl.Slower(g, from, percent), slowerOf(g, from, percent))
 		hours := allDay(100)[:pick(tell, 23, 24, 24, 24)]
-		hours[0], hours[1], hours[2] = percent, number()*70, number()*3
+		hours[0], hours[1], hours[2] = 1+number(), 30+number()*70, 1+number()*3
+		hours[22] = 10000 - number() + tell.Int63n(40)/39
 		start := number() * pick(tell, int64(1), 1800, 3600)
 		day := impl.Daily(g, hours, s, e, start)
 		checkPath(t, "strange", day, dailyOf(g, hours, s, e, start))

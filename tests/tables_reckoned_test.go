@@ -83,17 +83,23 @@ func dailyOf(g impl.Graph, hours []int64, s int64, e int64, start int64) impl.Pa
 	if !graphCanBe(g) || !placesCanBe(g, s, e) || len(hours) != 24 {
 		return impl.Path{}
 	}
-	for hour, percent := range hours {
-		if first := int64(hour) * 3600; first > start || start > first+3599 || percent < 1 || percent > 10000 {
-			continue
+	hour := -1
+	for i, percent := range hours {
+		if percent < 1 || percent > 10000 {
+			return impl.Path{}
 		}
-		g = same(g)
-		for i, r := range g.Roads {
-			g.Roads[i].Time = slowTime(r.Time, percent)
+		if first := int64(i) * 3600; first <= start && start <= first+3599 {
+			hour = i
 		}
-		return grownTo(g, s)[e]
 	}
-	return impl.Path{}
+	if hour < 0 {
+		return impl.Path{}
+	}
+	g = same(g)
+	for i, r := range g.Roads {
+		g.Roads[i].Time = slowTime(r.Time, hours[hour])
+	}
+	return grownTo(g, s)[e]
 }
 
 func centerOf(g impl.Graph, among []int64) int64 {

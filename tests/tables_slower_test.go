@@ -202,21 +202,26 @@ func TestDailyOfHoursThatCantBe(t *testing.T) {
 	for _, count := range []int{0, 1, 23, 25, 48} {
 		checkNoDay(t, "too few hours, or too many", g, slices.Repeat([]int64{100}, count), 0, 1, 0)
 	}
-	for _, bad := range []int64{math.MinInt64, -1, 0, 10001, math.MaxInt64} {
-		for hour := range int64(24) {
+	for hour := range int64(24) {
+		for start := range int64(24) {
 			hours := allDay(200)
-			hours[hour] = bad
-			// Only the hour in which one leaves counts.
-			for start := range int64(24) {
+			// Only the hour in which one leaves counts, but all must be percents.
+			for _, bad := range []int64{math.MinInt64, -1, 0, 10001, math.MaxInt64} {
+				hours[hour] = bad
+				checkNoDay(t, "a percent that can't be", g, hours, 0, 1, start*3600)
+				checkNoDay(t, "a percent that can't be, to itself", g, hours, 0, 0, start*3600+3599)
+			}
+			for _, percent := range []int64{100, 1000, 10000} {
+				hours[hour] = percent
 				if start == hour {
-					checkNoDay(t, "a percent that can't be", g, hours, 0, 1, start*3600)
-					checkNoDay(t, "a percent that can't be, to itself", g, hours, 0, 0, start*3600+3599)
+					checkDaily(t, "the hour's percent", g, hours, 0, 1, start*3600, percent/10, 0)
 				} else {
-					checkDaily(t, "another hour's percent can't be", g, hours, 0, 1, start*3600, 20, 0)
+					checkDaily(t, "another hour's percent", g, hours, 0, 1, start*3600, 20, 0)
 				}
 			}
 		}
 	}
+	checkNoDay(t, "two hours' percents that can't be", g, append([]int64{0, 10001}, allDay(100)[:22]...), 0, 1, 3*3600)
 	for _, percent := range []int64{1, 99, 100, 101, 10000} {
 		checkDaily(t, "a percent that can be", onWays(1000, 1, 1, 1), allDay(percent), 0, 1, 50000, 10*percent, 0)
 	}
